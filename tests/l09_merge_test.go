@@ -529,7 +529,7 @@ func mustStayTheSame(t *testing.T, why string, e impl.Engine) {
 // someOf takes every few of very many, and the last ones.
 func someOf(lists [][]int) [][]int {
 	var some [][]int
-	step := 1 + len(lists)/300
+	step := 1 + len(lists)/700
 	for place, left := range lists {
 		if place%step == 0 || place > len(lists)-5 {
 			some = append(some, left)
