@@ -128,69 +128,106 @@ func plainCount(vals map[string]impl.Val, name string, args []string) string {
 	return plainSet(vals, args[0], untilTime(textVal(text), v.Until), ":"+text+"\r\n")
 }
 
-// mustOnTexts asks twice, with room behind all that comes in: neither that room, nor what came in, nor the other answer may be touched.
-func mustOnTexts(t *testing.T, why string, table []impl.Entry, args []string, behind []impl.Entry, reply string, ok bool) {
+type onTable = func(table []impl.Entry, args []string) ([]impl.Entry, string, bool)
+
+// layer is one of the functions that do commands to a table, beside its rule by hand.
+type layer struct {
+	label string
+	names []string
+	on    onTable
+	plain onTable
+}
+
+func textLayer() layer { return layer{"OnTexts", textCommandNames(), impl.OnTexts, plainOnTexts} }
+
+// mustAnswer asks twice, with room behind all that comes in: neither that room, nor what came in, nor the other answer may be touched.
+func (l layer) mustAnswer(t *testing.T, why string, table []impl.Entry, args []string, behind []impl.Entry, reply string, ok bool) {
 	t.Helper()
 	came, room := roomyTable(table)
 	before := copyTable(wholeTable(room))
 	argsRoom := append(slices.Clone(args), "room", "behind")
 	argsBefore := slices.Clone(argsRoom)
-	first, firstReply, firstOk := impl.OnTexts(came, argsRoom[:len(args)])
-	second, secondReply, secondOk := impl.OnTexts(came, argsRoom[:len(args)])
+	first, firstReply, firstOk := l.on(came, argsRoom[:len(args)])
+	second, secondReply, secondOk := l.on(came, argsRoom[:len(args)])
 	if !sameTable(first, behind) || firstReply != reply || firstOk != ok {
-		t.Errorf("%s: OnTexts(%s, %.40q): %s %.100q %v, want %s %.100q %v", why, briefTable(table), args, briefTable(first), firstReply, firstOk, briefTable(behind), reply, ok)
+		t.Errorf("%s: %s(%s, %.40q): %s %.100q %v, want %s %.100q %v", why, l.label, briefTable(table), args, briefTable(first), firstReply, firstOk, briefTable(behind), reply, ok)
 	}
 	scribbleTable(first)
 	if !sameTable(second, behind) || secondReply != reply || secondOk != ok {
-		t.Errorf("%s: OnTexts(%s, %.40q), once more: %s %.100q %v", why, briefTable(table), args, briefTable(second), secondReply, secondOk)
+		t.Errorf("%s: %s(%s, %.40q), once more: %s %.100q %v", why, l.label, briefTable(table), args, briefTable(second), secondReply, secondOk)
 	}
 	if !sameTable(wholeTable(room), before) || !slices.Equal(argsRoom, argsBefore) {
-		t.Errorf("%s: OnTexts(%s, %.40q) has changed what came in", why, briefTable(table), args)
+		t.Errorf("%s: %s(%s, %.40q) has changed what came in", why, l.label, briefTable(table), args)
 	}
 }
 
 // mustDo wants a reply that is one, and a right table; where the reply is a fault, the table that came in.
-func mustDo(t *testing.T, why string, table []impl.Entry, args []string, behind []impl.Entry, reply string) {
+func (l layer) mustDo(t *testing.T, why string, table []impl.Entry, args []string, behind []impl.Entry, reply string) {
 	t.Helper()
-	mustOnTexts(t, why, table, args, behind, reply, true)
+	l.mustAnswer(t, why, table, args, behind, reply, true)
 	mustTellReplies(t, why, reply, someArgs(reply))
 	if !impl.TableOk(behind) || isFault(reply) && !sameTable(table, behind) {
 		t.Errorf("%s: the test wants what cannot be", why)
 	}
 }
 
-func mustFail(t *testing.T, why string, table []impl.Entry, args []string, fault string) {
+func (l layer) mustFail(t *testing.T, why string, table []impl.Entry, args []string, fault string) {
 	t.Helper()
-	mustDo(t, why, table, args, table, fault)
+	l.mustDo(t, why, table, args, table, fault)
 }
 
-func mustNotDo(t *testing.T, why string, table []impl.Entry, args []string) {
+func (l layer) mustNotDo(t *testing.T, why string, table []impl.Entry, args []string) {
 	t.Helper()
-	mustOnTexts(t, why, table, args, nil, "", false)
+	l.mustAnswer(t, why, table, args, nil, "", false)
 }
 
 // mustDoPlainly tells what became of the command: a reply's mark, or nothing.
-func mustDoPlainly(t *testing.T, why string, table []impl.Entry, args []string) string {
+func (l layer) mustDoPlainly(t *testing.T, why string, table []impl.Entry, args []string) string {
 	t.Helper()
-	behind, reply, ok := plainOnTexts(table, args)
-	mustOnTexts(t, why, table, args, behind, reply, ok)
+	behind, reply, ok := l.plain(table, args)
+	l.mustAnswer(t, why, table, args, behind, reply, ok)
 	if isFault(reply) {
 		return reply
 	}
 	return reply[:min(1, len(reply))]
 }
 
-// afterTexts does commands one behind the other, none of which may fail, and tells the table.
-func afterTexts(t *testing.T, table []impl.Entry, commands ...[]string) []impl.Entry {
+// after does commands one behind the other, none of which may fail, and tells the table.
+func (l layer) after(t *testing.T, table []impl.Entry, commands ...[]string) []impl.Entry {
 	t.Helper()
 	for _, args := range commands {
-		behind, reply, ok := impl.OnTexts(table, args)
+		behind, reply, ok := l.on(table, args)
 		if !ok || isFault(reply) {
-			t.Fatalf("%.40q: %q %v", args, reply, ok)
+			t.Fatalf("%s(%.40q): %q %v", l.label, args, reply, ok)
 		}
 		table = behind
 	}
 	return table
+}
+
+func mustDo(t *testing.T, why string, table []impl.Entry, args []string, behind []impl.Entry, reply string) {
+	t.Helper()
+	textLayer().mustDo(t, why, table, args, behind, reply)
+}
+
+func mustFail(t *testing.T, why string, table []impl.Entry, args []string, fault string) {
+	t.Helper()
+	textLayer().mustFail(t, why, table, args, fault)
+}
+
+func mustNotDo(t *testing.T, why string, table []impl.Entry, args []string) {
+	t.Helper()
+	textLayer().mustNotDo(t, why, table, args)
+}
+
+func mustDoPlainly(t *testing.T, why string, table []impl.Entry, args []string) string {
+	t.Helper()
+	return textLayer().mustDoPlainly(t, why, table, args)
+}
+
+func afterTexts(t *testing.T, table []impl.Entry, commands ...[]string) []impl.Entry {
+	t.Helper()
+	return textLayer().after(t, table, commands...)
 }
 
 func TestTextConstantsAreTold(t *testing.T) {
@@ -199,7 +236,7 @@ func TestTextConstantsAreTold(t *testing.T) {
 	}
 }
 
-type textCase struct {
+type commandCase struct {
 	why    string
 	table  []impl.Entry
 	args   []string
@@ -223,9 +260,9 @@ func someTable() []impl.Entry {
 // someTableWith has one value more, or another one.
 func someTableWith(list ...impl.Entry) []impl.Entry { return sortedTable(append(list, someTable()...)) }
 
-func casesOfReading() []textCase {
+func casesOfReading() []commandCase {
 	one, many := oneEntry("a", textVal("x")), someTable()
-	return []textCase{
+	return []commandCase{
 		{"no table", nil, words("GET a"), nil, nilReply},
 		{"an empty table", []impl.Entry{}, words("GET a"), nil, nilReply},
 		{"the key that there is", one, words("GET a"), one, "$1\r\nx\r\n"},
@@ -256,9 +293,9 @@ func casesOfReading() []textCase {
 	}
 }
 
-func casesOfSetting() []textCase {
+func casesOfSetting() []commandCase {
 	one, many := oneEntry("a", textVal("x")), someTable()
-	return []textCase{
+	return []commandCase{
 		{"the first key", nil, words("SET a x"), one, okReply},
 		{"the first key of an empty table", []impl.Entry{}, words("SET a x"), one, okReply},
 		{"the same again", one, words("SET a x"), one, okReply},
@@ -307,10 +344,10 @@ func casesOfSetting() []textCase {
 	}
 }
 
-func casesOfCounting() []textCase {
+func casesOfCounting() []commandCase {
 	many := someTable()
 	seven, text := entry("n", textVal("7")), func(text string) []impl.Entry { return oneEntry("n", textVal(text)) }
-	return []textCase{
+	return []commandCase{
 		{"behind nothing", nil, words("APPEND n 7"), entries(seven), ":1\r\n"},
 		{"nothing behind nothing", nil, someArgs("APPEND", "n", ""), text(""), ":0\r\n"},
 		{"nothing behind a text", entries(seven), someArgs("APPEND", "n", ""), entries(seven), ":1\r\n"},
@@ -358,27 +395,31 @@ func casesOfCounting() []textCase {
 	}
 }
 
-func casesOfTexts() []textCase {
+func casesOfTexts() []commandCase {
 	return slices.Concat(casesOfReading(), casesOfSetting(), casesOfCounting())
 }
 
-func TestTextCommandsOneByOne(t *testing.T) {
+// mustDoEach wants each case by its rule, too, and at least so many of each command.
+func (l layer) mustDoEach(t *testing.T, cases []commandCase, least int) {
+	t.Helper()
 	done := map[string]int{}
-	for _, c := range casesOfTexts() {
+	for _, c := range cases {
 		for _, name := range inAllCases(c.args[0]) {
-			mustDo(t, c.why, c.table, append(someArgs(name), c.args[1:]...), c.behind, c.reply)
+			l.mustDo(t, c.why, c.table, append(someArgs(name), c.args[1:]...), c.behind, c.reply)
 		}
-		if behind, reply, ok := plainOnTexts(c.table, c.args); !sameTable(behind, c.behind) || reply != c.reply || !ok {
+		if behind, reply, ok := l.plain(c.table, c.args); !sameTable(behind, c.behind) || reply != c.reply || !ok {
 			t.Errorf("%s: by the words %s %q %v", c.why, briefTable(behind), reply, ok)
 		}
 		done[c.args[0]]++
 	}
-	for _, name := range textCommandNames() {
-		if done[name] < 6 {
+	for _, name := range l.names {
+		if done[name] < least {
 			t.Errorf("only %d cases of %s", done[name], name)
 		}
 	}
 }
+
+func TestTextCommandsOneByOne(t *testing.T) { textLayer().mustDoEach(t, casesOfTexts(), 6) }
 
 // textsToTry are told to the commands that take one.
 func textsToTry() []string {
@@ -791,22 +832,19 @@ func TestCountingThereAndBack(t *testing.T) {
 	}
 }
 
-func otherKinds() []namedVal {
-	var list []namedVal
-	for _, c := range rightVals() {
-		if c.v.Kind != impl.KindText {
-			list = append(list, c)
-		}
-	}
-	return append(list,
+// valsNotOf has values of each other kind, numbers among them.
+func valsNotOf(kind int) []namedVal {
+	list := append(rightVals(),
+		namedVal{"a number, till a time", untilTime(textVal("7"), 300)},
 		namedVal{"a list of a number, till a time", untilTime(listVal("7"), 300)},
 		namedVal{"a set of a number", setVal("7")},
 		namedVal{"fields of a number", fieldsVal("7", "7")})
+	return slices.DeleteFunc(list, func(c namedVal) bool { return c.v.Kind == kind })
 }
 
 func TestValuesOfOtherKinds(t *testing.T) {
 	kinds := map[int]int{}
-	for _, c := range otherKinds() {
+	for _, c := range valsNotOf(impl.KindText) {
 		kinds[c.v.Kind]++
 		for _, table := range [][]impl.Entry{oneEntry("k", c.v), entries(entry("a", textVal("1")), entry("k", c.v), entry("z", untilTime(textVal("2"), 3)))} {
 			for _, line := range someArgs("GET k", "GETSET k x", "APPEND k x", "STRLEN k", "INCR k", "DECR k", "INCRBY k 3", "DECRBY k 3", "INCRBY k word", "DECRBY k 1000000001") {
@@ -877,56 +915,63 @@ func TestFaultsOfTextCommandsInOrder(t *testing.T) {
 	mustFail(t, "a number, and a key too many", full, words("INCRBY k 1000000000"), tooMuchReply)
 }
 
-func TestOtherCommandsAreNotOnTexts(t *testing.T) {
-	others := 0
+// mustLeaveOthers wants no answer to commands of other layers, and to names that are none.
+func (l layer) mustLeaveOthers(t *testing.T, key string, wrongNames []string) {
+	t.Helper()
+	names, mine := slices.Clone(wrongNames), 0
 	for _, c := range commandsByHand() {
-		if slices.Contains(textCommandNames(), c.name) {
+		if slices.Contains(l.names, c.name) {
+			mine++
 			continue
 		}
-		others++
-		for _, name := range inAllCases(c.name) {
-			for count := range 9 {
-				args := append(someArgs(name), manyArgs(count, "n")...)
-				mustNotDo(t, "another layer's", someTable(), args)
-				mustNotDo(t, "another layer's, over nothing", nil, args)
-			}
+		names = append(names, inAllCases(c.name)...)
+	}
+	names = append(names, someArgs("", "what", "MULTI", "EXEC", "DISCARD", someText(9))...)
+	for _, name := range names {
+		for count := range 9 {
+			args := append(someArgs(name), manyArgs(count, key)...)
+			l.mustNotDo(t, "no command of this layer", someTable(), args)
+			l.mustNotDo(t, "no command of this layer, over nothing", nil, args)
 		}
 	}
-	if others != 29 {
-		t.Errorf("%d other commands", others)
-	}
-	for _, name := range someArgs("", "what", "MULTI", "EXEC", "GE", "GETT", "GET ", " GET", "GET\x00", "\x00GET", "GETSETS", "MSETNX", "INCRBYFLOAT", "STRLENGTH", "GETDEL", "SETEX", "\u017fET", "\u0131NCR", "G\u0415T", "gEt\r\n", "+GET", "g@t", "[ET", someText(9), strings.Repeat("GET", 5000)) {
-		for count := range 7 {
-			args := append(someArgs(name), manyArgs(count, "n")...)
-			mustNotDo(t, "no command", someTable(), args)
-			mustNotDo(t, "no command, over nothing", nil, args)
-		}
+	if mine != len(l.names) || len(names) < 29*5 {
+		t.Errorf("%d commands of its own, %d names of others", mine, len(names))
 	}
 }
 
-func TestTextCommandsWithOtherArguments(t *testing.T) {
-	for _, table := range [][]impl.Entry{nil, oneEntry("n", textVal("7")), someTable()} {
-		mustNotDo(t, "nil", table, nil)
-		mustNotDo(t, "no argument", table, someArgs())
-		mustNotDo(t, "no argument, but room", table, someArgs("GET", "n")[:0])
-		mustNotDo(t, "an empty argument ahead", table, someArgs("", "GET", "n"))
-		mustNotDo(t, "a key ahead", table, someArgs("n", "GET"))
+func TestOtherCommandsAreNotOnTexts(t *testing.T) {
+	textLayer().mustLeaveOthers(t, "n", someArgs("GE", "GETT", "GET ", " GET", "GET\x00", "\x00GET", "GETSETS", "MSETNX", "INCRBYFLOAT", "STRLENGTH", "GETDEL", "SETEX", "\u017fET", "\u0131NCR", "G\u0415T", "gEt\r\n", "+GET", "g@t", "[ET", strings.Repeat("GET", 5000)))
+}
+
+// mustTakeItsArguments asks with every number of arguments, all of them the same.
+func (l layer) mustTakeItsArguments(t *testing.T, tables [][]impl.Entry, arg string) {
+	t.Helper()
+	for _, table := range tables {
+		l.mustNotDo(t, "nil", table, nil)
+		l.mustNotDo(t, "no argument", table, someArgs())
+		l.mustNotDo(t, "no argument, but room", table, someArgs(l.names[0], arg)[:0])
+		l.mustNotDo(t, "an empty argument ahead", table, someArgs("", l.names[0], arg))
+		l.mustNotDo(t, "a key ahead", table, someArgs(arg, l.names[0]))
 		for _, c := range commandsByHand() {
-			if !slices.Contains(textCommandNames(), c.name) {
+			if !slices.Contains(l.names, c.name) {
 				continue
 			}
 			for _, name := range inAllCases(c.name) {
 				for _, count := range slices.Concat(countsTo(12), []int{255, 256, 257, 258, 260, 513}) {
-					args := append(someArgs(name), manyArgs(count, "7")...)
+					args := append(someArgs(name), manyArgs(count, arg)...)
 					if c.takesByHand(count) {
-						mustDoPlainly(t, "its number of arguments", table, args)
+						l.mustDoPlainly(t, "its number of arguments", table, args)
 					} else {
-						mustNotDo(t, "another number of arguments", table, args)
+						l.mustNotDo(t, "another number of arguments", table, args)
 					}
 				}
 			}
 		}
 	}
+}
+
+func TestTextCommandsWithOtherArguments(t *testing.T) {
+	textLayer().mustTakeItsArguments(t, [][]impl.Entry{nil, oneEntry("n", textVal("7")), someTable()}, "7")
 }
 
 func TestTextCommandsOverTablesThatAreNotRight(t *testing.T) {
@@ -1065,11 +1110,12 @@ func TestTextCommandsInDrawnLives(t *testing.T) {
 	}
 }
 
-// What only reads, and what fails, may leave nothing to be kept.
-func TestWhatChangesNothingDiffersInNothing(t *testing.T) {
-	for _, c := range casesOfTexts() {
+// mustDifferWhereItMay holds what an engine would be told of each case against what its test wants: what only reads, and what fails, leaves nothing to be kept.
+func (l layer) mustDifferWhereItMay(t *testing.T, cases []commandCase) {
+	t.Helper()
+	for _, c := range cases {
 		changes := impl.Differ(c.table, c.behind)
-		if got, _, _ := impl.OnTexts(c.table, c.args); !slices.Equal(impl.Differ(c.table, got), changes) {
+		if got, _, _ := l.on(c.table, c.args); !slices.Equal(impl.Differ(c.table, got), changes) {
 			t.Errorf("%s: %s", c.why, briefChanges(impl.Differ(c.table, got)))
 		}
 		if (isFault(c.reply) || !impl.Writes(c.args)) && len(changes) > 0 {
@@ -1078,18 +1124,27 @@ func TestWhatChangesNothingDiffersInNothing(t *testing.T) {
 	}
 }
 
-// mustShareNothing asks twice: neither answer has memory of what came in, nor of the other one.
-func mustDoWithoutSharing(t *testing.T, why string, table []impl.Entry, args []string) {
+func TestWhatChangesNothingDiffersInNothing(t *testing.T) {
+	textLayer().mustDifferWhereItMay(t, casesOfTexts())
+}
+
+// mustDoWithoutSharing asks twice: neither answer has memory of what came in, nor of the other one.
+func (l layer) mustDoWithoutSharing(t *testing.T, why string, table []impl.Entry, args []string) {
 	t.Helper()
 	came := copyTable(table)
 	var asked []string
 	for _, arg := range args {
 		asked = append(asked, strings.Clone(arg))
 	}
-	first, firstReply, _ := impl.OnTexts(came, asked)
-	second, secondReply, _ := impl.OnTexts(came, asked)
+	first, firstReply, _ := l.on(came, asked)
+	second, secondReply, _ := l.on(came, asked)
 	told := slices.Concat(textsOfTable(first), textsOfTable(second), someArgs(firstReply, secondReply))
 	mustShareNoText(t, fmt.Sprintf("%s: %.30q", why, args), told, slices.Concat(textsOfTable(came), asked))
+}
+
+func mustDoWithoutSharing(t *testing.T, why string, table []impl.Entry, args []string) {
+	t.Helper()
+	textLayer().mustDoWithoutSharing(t, why, table, args)
 }
 
 func TestAnswersOnTextsShareNothing(t *testing.T) {
