@@ -174,6 +174,9 @@ func (l layer) mustDo(t *testing.T, why string, table []impl.Entry, args []strin
 func (l layer) mustFail(t *testing.T, why string, table []impl.Entry, args []string, fault string) {
 	t.Helper()
 	l.mustDo(t, why, table, args, table, fault)
+	if !isFault(fault) {
+		t.Errorf("%s: the test wants no fault, but %q", why, fault)
+	}
 }
 
 func (l layer) mustNotDo(t *testing.T, why string, table []impl.Entry, args []string) {
